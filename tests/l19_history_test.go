@@ -43,18 +43,18 @@ func ownOps(list []impl.Op) []impl.Op {
 }
 
 func plainHistoryOk(list []impl.Op) bool {
-	begins, ends := map[int64]int{}, map[int64]int{}
+	times := []int64{}
 	for _, o := range list {
-		begins[o.Begin]++
-		ends[o.End]++
-		if o.At < 0 || o.At > 2 || o.Begin < 0 || begins[o.Begin] > 1 {
+		if o.At < 0 || o.At > 2 || o.Begin < 0 || o.End != -1 && o.End <= o.Begin {
 			return false
 		}
-		if o.End != -1 && (o.End <= o.Begin || ends[o.End] > 1) {
-			return false
+		times = append(times, o.Begin)
+		if o.End != -1 {
+			times = append(times, o.End)
 		}
 	}
-	return len(list) <= mostHistory
+	slices.Sort(times)
+	return len(list) <= mostHistory && len(slices.Compact(slices.Clone(times))) == len(times)
 }
 
 func plainAhead(list []impl.Op, a int64, b int64) bool {
@@ -356,6 +356,7 @@ func wrongHistories() [][]impl.Op {
 		{{}}, {{Write: true}}, {wrote(0, "a", 0, 1), {}}, make([]impl.Op, 2), make([]impl.Op, mostHistory),
 		{saw(0, "", 5, 5)}, {saw(0, "", 5, 4)}, {saw(0, "", 5, 0)}, {saw(0, "", 5, -2)}, {saw(0, "", -1, -1)}, {saw(0, "", -1, 3)}, {saw(0, "", -2, -1)},
 		{saw(0, "", 1, 2), saw(1, "", 1, 3)}, {saw(0, "", 1, 3), saw(1, "", 2, 3)}, {saw(0, "", 1, -1), saw(2, "", 1, -1)},
+		{wrote(0, "a", 0, 1), saw(0, "a", 1, 2)}, {saw(0, "a", 1, 2), wrote(0, "a", 0, 1)}, {wrote(0, "a", 0, 1), saw(1, "", 1, -1)}, {saw(1, "", 1, -1), wrote(0, "a", 0, 1)},
 	}
 	for number := range right {
 		for _, far := range append(farNumbers(), wrongNumbers()...) {
@@ -415,7 +416,7 @@ func TestHistoryOkOfOneOp(t *testing.T) {
 	checkHistoryOk(t, []impl.Op{saw(0, "", 0, 0)}, false)
 	checkHistoryOk(t, []impl.Op{saw(0, "", 0, 1)}, true)
 	for _, text := range append(trickyTexts(), longTexts()...) {
-		checkHistoryOk(t, []impl.Op{wrote(0, text, 0, 1), saw(2, text, 1, -1)}, true)
+		checkHistoryOk(t, []impl.Op{wrote(0, text, 0, 1), saw(2, text, 2, -1)}, true)
 	}
 }
 
@@ -427,9 +428,14 @@ func TestHistoryOkOfTwoThatAreAlike(t *testing.T) {
 	checkHistoryOk(t, []impl.Op{saw(0, "", 3, 5), wrote(2, "a", 4, 5)}, false)
 	checkHistoryOk(t, []impl.Op{saw(0, "", 3, -1), saw(0, "", 4, -1)}, true)
 	checkHistoryOk(t, []impl.Op{saw(0, "", 3, -1), wrote(2, "a", 4, -1), saw(1, "", 5, -1)}, true)
-	// A Begin and an End may be alike.
-	checkHistoryOk(t, []impl.Op{saw(0, "", 3, 5), saw(0, "", 5, 6)}, true)
-	checkHistoryOk(t, []impl.Op{saw(0, "", 5, -1), saw(0, "", 3, 5)}, true)
+	// A Begin and an End are two of these, too.
+	for begin, want := range map[int64]bool{4: true, 5: false, 6: true} {
+		checkHistoryOk(t, []impl.Op{saw(0, "", 3, 5), saw(0, "", begin, 7)}, want)
+		checkHistoryOk(t, []impl.Op{saw(0, "", begin, 7), saw(0, "", 3, 5)}, want)
+		checkHistoryOk(t, []impl.Op{saw(0, "", 3, 5), wrote(2, "a", begin, -1)}, want)
+		checkHistoryOk(t, []impl.Op{saw(0, "", begin, -1), wrote(2, "a", 3, 5)}, want)
+	}
+	checkHistoryOk(t, []impl.Op{saw(0, "", 0, 1), saw(1, "", 2, -1), saw(2, "", 3, -1)}, true)
 	// The two need not stand beside one another.
 	for a := range mostHistory {
 		for b := range a {
@@ -439,6 +445,108 @@ func TestHistoryOkOfTwoThatAreAlike(t *testing.T) {
 			checkHistoryOk(t, ends, false)
 			checkHistoryOk(t, changedOp(ends, b, func(o *impl.Op) { o.End = -1 }), true)
 		}
+	}
+}
+
+// checkNoHistory asks of all of the chapter that this is none.
+func checkNoHistory(t *testing.T, list []impl.Op) {
+	t.Helper()
+	checkHistoryOk(t, list, false)
+	checkNotLinear(t, list)
+	checkLocal(t, list, false)
+	row := []int64{}
+	checkOrderOk(t, list, false)
+	for a := range int64(len(list)) {
+		row = append(row, a)
+		checkOrderOk(t, list, false, row...)
+		for b := range int64(len(list)) {
+			checkAhead(t, list, a, b, false)
+		}
+	}
+	for number := range int64(3) {
+		checkPart(t, list, number)
+	}
+}
+
+// spread is a history in the order of whose times nothing is changed, and that
+// has room between any two.
+func spread(list []impl.Op) []impl.Op {
+	times := []int64{}
+	for _, o := range list {
+		times = append(times, o.Begin, o.End)
+	}
+	slices.Sort(times)
+	list = slices.Clone(list)
+	for i, o := range list {
+		list[i].Begin = int64(10 + 10*slices.Index(times, o.Begin))
+		if o.End != -1 {
+			list[i].End = int64(10 + 10*slices.Index(times, o.End))
+		}
+	}
+	return list
+}
+
+// besides are a history with the Begin of number a put to the End of number b, or
+// the End to the Begin, or so far beside it.
+func besides(list []impl.Op, a int, b int, far int64) [][]impl.Op {
+	begin, end := list[b].Begin+far, list[b].End+far
+	changed := [][]impl.Op{
+		changedOp(list, a, func(o *impl.Op) { o.End = begin }),
+		changedOp(list, a, func(o *impl.Op) { o.Begin = begin - 5; o.End = begin }),
+	}
+	if list[b].End == -1 {
+		return changed
+	}
+	return append(changed,
+		changedOp(list, a, func(o *impl.Op) { o.Begin = end }),
+		changedOp(list, a, func(o *impl.Op) { o.Begin = end; o.End = -1 }),
+		changedOp(list, a, func(o *impl.Op) { o.Begin = end; o.End = end + 5 }),
+	)
+}
+
+func TestNoBeginIsTheOtherOnesEnd(t *testing.T) {
+	n := numbers(271)
+	lists := [][]impl.Op{aHistory(), apart(2), apart(mostHistory), abreast(2, 1), abreast(mostHistory, 0)}
+	for range 20 {
+		list, _ := n.shopped(2+n.below(mostHistory-1), 1+n.below(6), 3)
+		lists = append(lists, list)
+	}
+	alike, beside := 0, 0
+	for _, list := range lists {
+		list = spread(list)
+		checkHistoryOk(t, list, true)
+		for i := range len(list) * len(list) {
+			a, b := i/len(list), i%len(list)
+			if a == b {
+				continue
+			}
+			for _, next := range besides(list, a, b, 0) {
+				checkNoHistory(t, next)
+				alike++
+			}
+			for _, next := range append(besides(list, a, b, -1), besides(list, a, b, 1)...) {
+				// It may still end ahead of its own Begin.
+				checkHistoryOk(t, next, next[a].End == -1 || next[a].End > next[a].Begin)
+				beside++
+			}
+		}
+	}
+	if alike < 5000 || beside < 10000 {
+		t.Errorf("%d are alike, and %d are not", alike, beside)
+	}
+}
+
+// Where a Begin is the other one's End, the two are no history, whoever stands first.
+func TestABeginThatIsAnEnd(t *testing.T) {
+	for _, list := range [][]impl.Op{
+		{wrote(0, "a", 0, 1), saw(0, "a", 1, 2)},
+		{wrote(0, "a", 0, 1), saw(0, "a", 1, -1)},
+		{wrote(0, "a", 0, 1), saw(2, "", 1, math.MaxInt64)},
+		{wrote(1, "a", 3, math.MaxInt64), saw(0, "", math.MaxInt64, -1)},
+	} {
+		checkNoHistory(t, list)
+		slices.Reverse(list)
+		checkNoHistory(t, list)
 	}
 }
 
@@ -473,7 +581,8 @@ func TestHistoriesOfAnyTwoSpans(t *testing.T) {
 			}
 		}
 	}
-	if ok != 122 {
+	// Of times from 0 to 4: 12 where neither has an End, 48 where one has, and 30.
+	if ok != 90 {
 		t.Errorf("%d histories", ok)
 	}
 }
@@ -499,8 +608,10 @@ func TestAhead(t *testing.T) {
 }
 
 func TestAheadAtTheEdge(t *testing.T) {
+	// At 5 it is no history.
 	for begin, want := range map[int64]bool{4: false, 5: false, 6: true} {
 		list := []impl.Op{wrote(0, "a", 1, 5), saw(2, "b", begin, -1)}
+		checkHistoryOk(t, list, begin != 5)
 		checkAhead(t, list, 0, 1, want)
 		checkAhead(t, list, 1, 0, false)
 		list[1].End = 9
@@ -576,7 +687,7 @@ func TestOrderOkOfWrongLists(t *testing.T) {
 
 func TestOrderOkWithoutAnEnd(t *testing.T) {
 	// It may be left out, or come anywhere behind what is ahead of it.
-	list := []impl.Op{wrote(0, "a", 0, 2), wrote(0, "b", 3, -1), saw(1, "", 4, 5), saw(0, "never", 5, -1)}
+	list := []impl.Op{wrote(0, "a", 0, 2), wrote(0, "b", 3, -1), saw(1, "", 4, 6), saw(0, "never", 5, -1)}
 	checkOrderOk(t, list, true, 0, 2)
 	checkOrderOk(t, list, true, 0, 1, 2)
 	checkOrderOk(t, list, true, 0, 2, 1)
@@ -590,7 +701,7 @@ func TestOrderOkWithoutAnEnd(t *testing.T) {
 	checkOrderOk(t, list, false, 0, 2, 3)
 	checkOrderOk(t, list, false, 0, 2, 3, 1)
 	checkOrderOk(t, list, false, 3, 1, 0, 2)
-	list[3].Begin = 6
+	list[3].Begin = 7
 	checkOrderOk(t, list, true, 0, 1, 2, 3)
 	checkOrderOk(t, list, false, 0, 1, 3, 2) // it began when number 2 was over
 	only := []impl.Op{wrote(0, "a", 0, -1), wrote(1, "b", 1, -1)}
@@ -600,7 +711,7 @@ func TestOrderOkWithoutAnEnd(t *testing.T) {
 }
 
 func TestOrderOkOfTimes(t *testing.T) {
-	for begin, want := range map[int64]bool{4: true, 5: true, 6: false} {
+	for begin, want := range map[int64]bool{3: true, 4: true, 6: false, 7: false} {
 		list := []impl.Op{wrote(0, "a", 1, 5), wrote(1, "b", begin, 9)}
 		checkOrderOk(t, list, true, 0, 1)
 		checkOrderOk(t, list, want, 1, 0)
@@ -609,6 +720,9 @@ func TestOrderOkOfTimes(t *testing.T) {
 		list[0].End = -1
 		checkOrderOk(t, list, true, 1, 0)
 	}
+	alike := []impl.Op{wrote(0, "a", 1, 5), wrote(1, "b", 5, 9)}
+	checkOrderOk(t, alike, false, 0, 1)
+	checkOrderOk(t, alike, false, 1, 0)
 	// Others may stand between the two.
 	list := []impl.Op{wrote(0, "a", 0, 1), wrote(1, "b", 2, 3), wrote(2, "c", 0, 9)}
 	list[2].Begin = 4
@@ -681,7 +795,7 @@ func TestLinear(t *testing.T) {
 	checkNotLinear(t, []impl.Op{saw(0, "a", 0, 1)})
 	checkNotLinear(t, []impl.Op{saw(0, "a", 0, 1), wrote(0, "a", 2, 3)})
 	checkLinear(t, []impl.Op{saw(0, "a", 0, 2), wrote(0, "a", 1, 3)}, 1, 0)
-	checkLinear(t, []impl.Op{saw(0, "a", 0, 2), wrote(0, "a", 2, 3)}, 1, 0)
+	checkNotLinear(t, []impl.Op{saw(0, "a", 0, 2), wrote(0, "a", 2, 3)}) // it is no history
 	checkLinear(t, []impl.Op{saw(0, "", 0, 2), wrote(0, "a", 1, 3)}, 0, 1)
 	checkNotLinear(t, []impl.Op{wrote(1, "a", 0, 2), saw(0, "a", 3, 4)})
 	// Of several orders the first one is told.
@@ -694,16 +808,16 @@ func TestLinear(t *testing.T) {
 
 // That the numbers are another way round makes no order.
 func TestLinearBackInTime(t *testing.T) {
-	list := []impl.Op{wrote(0, "a", 0, 5), saw(0, "a", 1, 2), saw(0, "", 3, 4)}
+	list := []impl.Op{wrote(0, "a", 0, 9), saw(0, "a", 1, 2), saw(0, "", 3, 5)}
 	checkNotLinear(t, list)
 	checkLocal(t, list, false)
-	list[1].End = 3
+	list[1].End = 4
 	checkLinear(t, list, 2, 0, 1)
 	list[1].End = 2
 	list[2].Text = "a"
 	checkLinear(t, list, 0, 1, 2)
 	// Once b was seen, a is gone for good.
-	list = []impl.Op{wrote(1, "a", 0, 1), wrote(1, "b", 2, 20), saw(1, "b", 3, 4), saw(1, "a", 5, 6)}
+	list = []impl.Op{wrote(1, "a", 0, 1), wrote(1, "b", 2, 20), saw(1, "b", 3, 5), saw(1, "a", 6, 7)}
 	checkNotLinear(t, list)
 	list[3].Begin = 4
 	checkLinear(t, list, 0, 3, 1, 2)
@@ -715,8 +829,9 @@ func TestLinearWithoutAnEnd(t *testing.T) {
 	checkLinear(t, []impl.Op{saw(0, "", 1, 2), wrote(0, "a", 0, -1)}, 0)
 	checkLinear(t, []impl.Op{wrote(0, "a", 0, -1), saw(0, "a", 1, 2)}, 0, 1)
 	checkLinear(t, []impl.Op{saw(0, "a", 1, 2), wrote(0, "a", 0, -1)}, 1, 0)
-	checkLinear(t, []impl.Op{saw(0, "a", 1, 2), wrote(0, "a", 2, -1)}, 1, 0)
-	checkNotLinear(t, []impl.Op{saw(0, "a", 1, 2), wrote(0, "a", 3, -1)})
+	checkLinear(t, []impl.Op{saw(0, "a", 1, 3), wrote(0, "a", 2, -1)}, 1, 0)
+	checkNotLinear(t, []impl.Op{saw(0, "a", 1, 3), wrote(0, "a", 3, -1)}) // it is no history
+	checkNotLinear(t, []impl.Op{saw(0, "a", 1, 3), wrote(0, "a", 4, -1)})
 	// A lesser number goes first, though all with an End were there without it.
 	checkLinear(t, []impl.Op{wrote(0, "a", 0, -1), saw(1, "", 1, 2)}, 0, 1)
 	checkLinear(t, []impl.Op{saw(1, "", 1, 2), wrote(0, "a", 0, -1)}, 0)
@@ -904,7 +1019,7 @@ func TestAllHistoriesOfTwo(t *testing.T) {
 			}
 		}
 	}
-	if linear < 8000 || not < 6000 {
+	if linear < 8000 || not < 4000 {
 		t.Errorf("%d are Linear, and %d are not", linear, not)
 	}
 }
@@ -912,9 +1027,9 @@ func TestAllHistoriesOfTwo(t *testing.T) {
 func TestAllHistoriesOfThree(t *testing.T) {
 	all := newPlainOrders(3)
 	linear, not := 0, 0
-	for _, first := range spans(3) {
-		for _, second := range spans(3) {
-			for _, third := range spans(3) {
+	for _, first := range spans(4) {
+		for _, second := range spans(4) {
+			for _, third := range spans(4) {
 				if !plainHistoryOk([]impl.Op{first, second, third}) {
 					continue
 				}
@@ -945,27 +1060,22 @@ type shopOp struct {
 // shop is where Ops come about, one thing at a time; lines are the numbers of
 // those that were done, as they were.
 type shop struct {
-	values   [3]string
-	ops      []shopOp
-	lines    []int64
-	now      int64
-	lastOpen int64
-	lastEnd  int64
+	values [3]string
+	ops    []shopOp
+	lines  []int64
+	now    int64
 }
 
-// begin opens one more, and end ends one. Two Begins are never alike, nor two
-// Ends; a Begin and an End may be.
+// begin opens one more, and end ends one; no two of them are at one time.
 func (s *shop) begin(o impl.Op) {
-	s.now = max(s.now, s.lastOpen+1)
 	o.Begin, o.End = s.now, -1
-	s.lastOpen = s.now
+	s.now++
 	s.ops = append(s.ops, shopOp{op: o})
 }
 
 func (s *shop) end(number int) {
-	o := &s.ops[number].op
-	s.now = max(s.now, s.lastEnd+1, o.Begin+1)
-	o.End, s.lastEnd = s.now, s.now
+	s.ops[number].op.End = s.now
+	s.now++
 }
 
 func (s *shop) do(number int) {
@@ -982,7 +1092,7 @@ func (s *shop) do(number int) {
 // shopped is a history of that many Ops, of which at most open are open at once,
 // in any order, and one order of it.
 func (n *numbers) shopped(count int, open int, ats int) ([]impl.Op, []int64) {
-	s := &shop{lastOpen: -1, lastEnd: -1}
+	s := &shop{}
 	if n.below(20) == 0 {
 		s.now = math.MaxInt64 - 1000
 	}
